@@ -8,36 +8,9 @@ import (
 	"testing"
 
 	"scrub/api"
+	"scrub/eventtest"
 	"scrub/lexer"
 )
-
-// show writes events in a short form: <name k=v k=v>, </name>, [text].
-func show(events []api.Event) string {
-	var b strings.Builder
-	for _, e := range events {
-		switch e.Kind {
-		case api.KindStart:
-			b.WriteString("<" + e.Name)
-			for _, a := range e.Attrs {
-				b.WriteString(" " + a.Name + "=" + a.Value)
-			}
-			b.WriteString(">")
-		case api.KindEnd:
-			b.WriteString("</" + e.Name + ">")
-		case api.KindText:
-			b.WriteString("[" + e.Text + "]")
-		default:
-			b.WriteString("?")
-		}
-	}
-	return b.String()
-}
-
-func sameEvents(a, b []api.Event) bool {
-	return slices.EqualFunc(a, b, func(x, y api.Event) bool {
-		return x.Kind == y.Kind && x.Name == y.Name && x.Text == y.Text && slices.Equal(x.Attrs, y.Attrs)
-	})
-}
 
 // join makes one event of text events that meet.
 func join(events []api.Event) []api.Event {
@@ -94,14 +67,14 @@ func checkCall(t *testing.T, window int, st api.Lexer, text string) {
 	t.Helper()
 	wantNext, wantEvents := modelFeed(window, st, text)
 	next, events := lexer.Feed(window, st, text)
-	if next != wantNext || !sameEvents(events, wantEvents) {
-		t.Fatalf("Feed(%d, %#v, %q) = %#v, %s, want %#v, %s", window, st, text, next, show(events), wantNext, show(wantEvents))
+	if next != wantNext || !eventtest.Same(events, wantEvents) {
+		t.Fatalf("Feed(%d, %#v, %q) = %#v, %s, want %#v, %s", window, st, text, next, eventtest.Show(events), wantNext, eventtest.Show(wantEvents))
 	}
 	st.Held += text
 	for _, broken := range []bool{false, true} {
 		want := modelFinish(window, st, broken)
-		if got := lexer.Finish(window, st, broken); !sameEvents(got, want) {
-			t.Fatalf("Finish(%d, %#v, %v) = %s, want %s", window, st, broken, show(got), show(want))
+		if got := lexer.Finish(window, st, broken); !eventtest.Same(got, want) {
+			t.Fatalf("Finish(%d, %#v, %v) = %s, want %s", window, st, broken, eventtest.Show(got), eventtest.Show(want))
 		}
 	}
 }
@@ -180,12 +153,12 @@ func TestLexCases(t *testing.T) {
 		{"</pre>\n", "</pre>[\n]"}, {"<script>\n</script>\n", "<script></script>[\n]"},
 	} {
 		got := lexer.Lex(64, c.in)
-		if show(got) != c.out {
-			t.Errorf("Lex(64, %q) = %s, want %s", c.in, show(got), c.out)
+		if eventtest.Show(got) != c.out {
+			t.Errorf("Lex(64, %q) = %s, want %s", c.in, eventtest.Show(got), c.out)
 		}
 		for size := 1; size <= len(c.in); size++ {
-			if fed := feedAll(t, 64, api.Lexer{}, false, cutInto(c.in, size)...); !sameEvents(fed, got) {
-				t.Errorf("%q in pieces of %d gives %s, want %s", c.in, size, show(fed), show(got))
+			if fed := feedAll(t, 64, api.Lexer{}, false, cutInto(c.in, size)...); !eventtest.Same(fed, got) {
+				t.Errorf("%q in pieces of %d gives %s, want %s", c.in, size, eventtest.Show(fed), eventtest.Show(got))
 			}
 		}
 	}
@@ -198,7 +171,7 @@ func TestEventsHaveNoOtherFields(t *testing.T) {
 		{Kind: api.KindStart, Name: "a", Attrs: []api.Attr{{Name: "b", Value: "c"}}},
 		{Kind: api.KindEnd, Name: "a"},
 	}
-	if got := lexer.Lex(32, "x<a b=c></a b=c>"); !sameEvents(got, want) {
+	if got := lexer.Lex(32, "x<a b=c></a b=c>"); !eventtest.Same(got, want) {
 		t.Errorf("%#v", got)
 	}
 }
@@ -266,7 +239,7 @@ func TestEveryTagStateAndByte(t *testing.T) {
 				st := api.Lexer{Mode: mode, Scan: numbers[cells[0]], Eat: i%2 == 0}
 				next, events := lexer.Feed(32, st, c)
 				if next != want || len(events) != 0 {
-					t.Fatalf("Feed(32, %#v, %q) = %#v, %s", st, c, next, show(events))
+					t.Fatalf("Feed(32, %#v, %q) = %#v, %s", st, c, next, eventtest.Show(events))
 				}
 			}
 		}
@@ -356,10 +329,10 @@ func TestFinish(t *testing.T) {
 		{api.Lexer{Scan: 3, Held: "&amp"}, "", ""},
 		{api.Lexer{Scan: 10, Held: ">&amp"}, "[&]", ""},
 	} {
-		if got := show(lexer.Finish(32, c.st, false)); got != c.end {
+		if got := eventtest.Show(lexer.Finish(32, c.st, false)); got != c.end {
 			t.Errorf("Finish(32, %#v, false) = %s, want %s", c.st, got, c.end)
 		}
-		if got := show(lexer.Finish(32, c.st, true)); got != c.broken {
+		if got := eventtest.Show(lexer.Finish(32, c.st, true)); got != c.broken {
 			t.Errorf("Finish(32, %#v, true) = %s, want %s", c.st, got, c.broken)
 		}
 	}
@@ -370,18 +343,18 @@ func TestWindowsAndStatesThatAreNotAllowed(t *testing.T) {
 		t.Helper()
 		next, events := lexer.Feed(window, st, "a<b>c")
 		if next != (api.Lexer{}) || len(events) != 0 {
-			t.Errorf("Feed(%d, %#v) = %#v, %s", window, st, next, show(events))
+			t.Errorf("Feed(%d, %#v) = %#v, %s", window, st, next, eventtest.Show(events))
 		}
 		for _, broken := range []bool{false, true} {
 			if events := lexer.Finish(window, st, broken); len(events) != 0 {
-				t.Errorf("Finish(%d, %#v, %v) = %s", window, st, broken, show(events))
+				t.Errorf("Finish(%d, %#v, %v) = %s", window, st, broken, eventtest.Show(events))
 			}
 		}
 	}
 	for _, window := range []int{math.MinInt, -32, -1, 0, 31, 4097, math.MaxInt} {
 		check(window, api.Lexer{Eat: true, Held: "x"})
 		if events := lexer.Lex(window, "a<b>"); len(events) != 0 {
-			t.Errorf("Lex(%d) = %s", window, show(events))
+			t.Errorf("Lex(%d) = %s", window, eventtest.Show(events))
 		}
 	}
 	for _, wrong := range []int{math.MinInt, -1, 11, 12, math.MaxInt} {
@@ -391,7 +364,7 @@ func TestWindowsAndStatesThatAreNotAllowed(t *testing.T) {
 		}
 	}
 	for window := 32; window <= 4096; window++ {
-		if got := show(lexer.Lex(window, "a<b>c")); got != "[a]<b>[c]" {
+		if got := eventtest.Show(lexer.Lex(window, "a<b>c")); got != "[a]<b>[c]" {
 			t.Errorf("Lex(%d) = %s", window, got)
 		}
 	}
@@ -449,8 +422,8 @@ func TestEveryWayToCutShortTexts(t *testing.T) {
 		each = func(st api.Lexer, rest string, ahead []api.Event) {
 			if rest == "" {
 				all := join(append(slices.Clone(ahead), lexer.Finish(32, st, false)...))
-				if !sameEvents(all, want) {
-					t.Fatalf("a way to cut %q gives %s, want %s", text, show(all), show(want))
+				if !eventtest.Same(all, want) {
+					t.Fatalf("a way to cut %q gives %s, want %s", text, eventtest.Show(all), eventtest.Show(want))
 				}
 			}
 			for n := 1; n <= len(rest); n++ {
@@ -477,8 +450,8 @@ func TestLongTextsInPieces(t *testing.T) {
 		text := b.String()
 		window := 32 + random.Intn(20)
 		want := lexer.Lex(window, text)
-		if model := modelFinish(window, api.Lexer{Held: text}, false); !sameEvents(want, model) {
-			t.Fatalf("Lex(%d, %q) = %s, want %s", window, text, show(want), show(model))
+		if model := modelFinish(window, api.Lexer{Held: text}, false); !eventtest.Same(want, model) {
+			t.Fatalf("Lex(%d, %q) = %s, want %s", window, text, eventtest.Show(want), eventtest.Show(model))
 		}
 		var pieces []string
 		for from := 0; from < len(text); {
@@ -486,12 +459,12 @@ func TestLongTextsInPieces(t *testing.T) {
 			pieces = append(pieces, text[from:to])
 			from = to
 		}
-		if got := feedAll(t, window, api.Lexer{}, false, pieces...); !sameEvents(got, want) {
-			t.Fatalf("%q in pieces %q with window %d gives %s, want %s", text, pieces, window, show(got), show(want))
+		if got := feedAll(t, window, api.Lexer{}, false, pieces...); !eventtest.Same(got, want) {
+			t.Fatalf("%q in pieces %q with window %d gives %s, want %s", text, pieces, window, eventtest.Show(got), eventtest.Show(want))
 		}
 		whole := join(modelFinish(window, api.Lexer{Held: text}, true))
-		if got := feedAll(t, window, api.Lexer{}, true, pieces...); !sameEvents(got, whole) {
-			t.Fatalf("%q broken off, in pieces %q, gives %s, want %s", text, pieces, show(got), show(whole))
+		if got := feedAll(t, window, api.Lexer{}, true, pieces...); !eventtest.Same(got, whole) {
+			t.Fatalf("%q broken off, in pieces %q, gives %s, want %s", text, pieces, eventtest.Show(got), eventtest.Show(whole))
 		}
 	}
 }

@@ -6,6 +6,7 @@ import (
 	"scrub/api"
 	"scrub/ascii"
 	"scrub/chars"
+	"scrub/stream"
 )
 
 // reader goes through the bytes of one call.
@@ -16,8 +17,7 @@ type reader struct {
 	mode   int
 	scan   int
 	eat    bool
-	text   strings.Builder // text units behind the last event
-	events []api.Event
+	out    stream.Stream
 }
 
 func newReader(window int, st api.Lexer, text string) *reader {
@@ -29,12 +29,6 @@ func (r *reader) state() api.Lexer {
 	// The clone keeps a few held bytes from holding the whole piece in memory.
 	held := strings.Clone(r.data[r.at:])
 	return api.Lexer{Mode: r.mode, Scan: r.scan, Eat: r.eat, Held: held}
-}
-
-// answer is all events, the text behind the last one among them.
-func (r *reader) answer() []api.Event {
-	r.endText()
-	return r.events
 }
 
 // read reads on until all is told or it needs more bytes to tell.
@@ -214,22 +208,7 @@ func (r *reader) readByte() {
 // unit puts out a text unit, if it is not a newline to be eaten.
 func (r *reader) unit(text string) {
 	if !r.eat || text != "\n" {
-		r.text.WriteString(text)
+		r.out.PutText(text)
 	}
 	r.eat = false
-}
-
-// put puts out an event behind the text ahead of it.
-func (r *reader) put(event api.Event) {
-	r.endText()
-	r.events = append(r.events, event)
-}
-
-// endText makes the text units that were read one event.
-func (r *reader) endText() {
-	if r.text.Len() == 0 {
-		return
-	}
-	r.events = append(r.events, api.Event{Kind: api.KindText, Text: r.text.String()})
-	r.text.Reset()
 }

@@ -78,9 +78,9 @@ func (r *reader) readTag(letter int) bool {
 	case !fits:
 		// The tag is lost, but for what it does to the lexer's state.
 	case isStart:
-		r.put(api.Event{Kind: api.KindStart, Name: name, Attrs: tagAttrs(tag)})
+		r.out.Put(api.Event{Kind: api.KindStart, Name: name, Attrs: tagAttrs(tag)})
 	default:
-		r.put(api.Event{Kind: api.KindEnd, Name: name})
+		r.out.Put(api.Event{Kind: api.KindEnd, Name: name})
 	}
 	r.mode, r.eat = api.ModeData, false
 	if isStart {

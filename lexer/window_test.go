@@ -5,6 +5,7 @@ import (
 	"testing"
 
 	"scrub/api"
+	"scrub/eventtest"
 	"scrub/lexer"
 )
 
@@ -50,7 +51,7 @@ func TestTagsOfTheWindowsLength(t *testing.T) {
 				if length <= window {
 					want = strings.ReplaceAll(c.kept, "PAD", pad)
 				}
-				if got := show(lexer.Lex(window, text)); got != want {
+				if got := eventtest.Show(lexer.Lex(window, text)); got != want {
 					t.Fatalf("Lex(%d, %q) = %s, want %s", window, text, got, want)
 				}
 				checkCuts(t, window, text, want)
@@ -71,7 +72,7 @@ func checkCuts(t *testing.T, window int, text, want string) {
 		if cut%step != 0 && cut > 20 && cut < window-20 {
 			continue
 		}
-		if got := show(feedAll(t, window, api.Lexer{}, false, text[:cut], "", text[cut:])); got != want {
+		if got := eventtest.Show(feedAll(t, window, api.Lexer{}, false, text[:cut], "", text[cut:])); got != want {
 			t.Fatalf("%q cut at %d with window %d gives %s, want %s", text, cut, window, got, want)
 		}
 	}
@@ -79,7 +80,7 @@ func checkCuts(t *testing.T, window int, text, want string) {
 		if len(text) > 200 && size < 31 {
 			continue
 		}
-		if got := show(feedAll(t, window, api.Lexer{}, false, cutInto(text, size)...)); got != want {
+		if got := eventtest.Show(feedAll(t, window, api.Lexer{}, false, cutInto(text, size)...)); got != want {
 			t.Fatalf("%q in pieces of %d with window %d gives %s, want %s", text, size, window, got, want)
 		}
 	}
@@ -109,11 +110,11 @@ func TestHeldTagsBecomeScans(t *testing.T) {
 			next, events := lexer.Feed(window, st, whole)
 			st.Held = whole
 			if next != st || len(events) != 0 {
-				t.Errorf("Feed of %q with window %d gives %#v, %s", whole, window, next, show(events))
+				t.Errorf("Feed of %q with window %d gives %#v, %s", whole, window, next, eventtest.Show(events))
 			}
 			next, events = lexer.Feed(window, next, c.pad)
 			if next != c.next || len(events) != 0 {
-				t.Errorf("Feed of one byte behind %q with window %d gives %#v, %s", whole, window, next, show(events))
+				t.Errorf("Feed of one byte behind %q with window %d gives %#v, %s", whole, window, next, eventtest.Show(events))
 			}
 		}
 	}
@@ -126,8 +127,8 @@ func TestTextIsPutOutAsItComes(t *testing.T) {
 		for i := range 256 {
 			if c := string([]byte{byte(i)}); c != "<" && c != "&" {
 				next, events := lexer.Feed(32, st, c)
-				if next != st || show(events) != "["+c+"]" {
-					t.Errorf("Feed of %q gives %#v, %s", c, next, show(events))
+				if next != st || eventtest.Show(events) != "["+c+"]" {
+					t.Errorf("Feed of %q gives %#v, %s", c, next, eventtest.Show(events))
 				}
 			}
 		}

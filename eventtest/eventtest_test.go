@@ -1,0 +1,84 @@
+package eventtest_test
+
+import (
+	"slices"
+	"testing"
+
+	"scrub/api"
+	"scrub/eventtest"
+)
+
+func TestShortForm(t *testing.T) {
+	events := eventtest.Read("<b>[x y]<a href=u title=>?</b>[]</>")
+	want := []api.Event{
+		{Kind: api.KindStart, Name: "b"},
+		{Kind: api.KindText, Text: "x y"},
+		{Kind: api.KindStart, Name: "a", Attrs: []api.Attr{{Name: "href", Value: "u"}, {Name: "title"}}},
+		{Kind: 9, Name: "b", Attrs: []api.Attr{{Name: "id", Value: "v"}}, Text: "x"},
+		{Kind: api.KindEnd, Name: "b"},
+		{Kind: api.KindText},
+		{Kind: api.KindEnd},
+	}
+	if !eventtest.Same(events, want) {
+		t.Errorf("%#v", events)
+	}
+	if got := eventtest.Show(want); got != "<b>[x y]<a href=u title=>?</b>[]</>" {
+		t.Error(got)
+	}
+}
+
+func TestSameLooksAtEveryField(t *testing.T) {
+	one := api.Event{Kind: 1, Name: "n", Attrs: []api.Attr{{Name: "k", Value: "v"}}, Text: "t"}
+	for _, turn := range []func(*api.Event){
+		func(e *api.Event) { e.Kind = 2 },
+		func(e *api.Event) { e.Name = "" },
+		func(e *api.Event) { e.Attrs = nil },
+		func(e *api.Event) { e.Attrs = []api.Attr{{Name: "k", Value: "w"}} },
+		func(e *api.Event) { e.Text = "" },
+	} {
+		other := one
+		turn(&other)
+		if eventtest.Same([]api.Event{one}, []api.Event{other}) {
+			t.Errorf("%#v passes for %#v", other, one)
+		}
+	}
+	if !eventtest.Same([]api.Event{{Attrs: []api.Attr{}}}, []api.Event{{}}) || !eventtest.Same(nil, []api.Event{}) {
+		t.Error("an empty list does not pass for a nil one")
+	}
+}
+
+// A helper that sees no shared memory would let every memory test pass.
+func TestSharedMemoryIsSeen(t *testing.T) {
+	roomy := eventtest.Roomy(eventtest.Read("<b k=v><i>[x]"))
+	before := eventtest.Whole(roomy)
+	for what, write := range map[string]func(){
+		"an event":                   func() { roomy[1].Name = "u" },
+		"behind the events":          func() { _ = append(roomy, api.Event{}) },
+		"an attribute":               func() { roomy[0].Attrs[0].Value = "w" },
+		"behind the attributes":      func() { _ = append(roomy[0].Attrs, api.Attr{}) },
+		"behind an empty list":       func() { _ = append(roomy[1].Attrs, api.Attr{}) },
+		"a spoiled copy of the list": func() { eventtest.Spoil(slices.Clone(roomy)) },
+	} {
+		write()
+		if eventtest.Same(eventtest.Whole(roomy), before) {
+			t.Errorf("%s is written and nobody sees it", what)
+		}
+		roomy = eventtest.Roomy(eventtest.Read("<b k=v><i>[x]"))
+	}
+	attrs := make([]api.Attr, 2, 4)
+	for i, answer := range [][]api.Event{
+		{{Attrs: attrs[:1]}, {Attrs: attrs[1:]}},
+		{{Attrs: attrs[:2:2]}, {Attrs: attrs[1:]}},
+		{{Attrs: attrs[:0]}, {Attrs: attrs[3:4]}},
+	} {
+		if !eventtest.Share(answer) {
+			t.Errorf("shared attribute lists %d are not seen", i)
+		}
+	}
+	if !eventtest.Share(roomy[:1], roomy[2:]) || eventtest.Share(roomy, eventtest.Whole(roomy)) {
+		t.Error("Share is wrong about lists of events")
+	}
+	if eventtest.Share([]api.Event{{Attrs: attrs[:2:2]}, {Attrs: attrs[2:]}, {}}) {
+		t.Error("lists side by side pass for shared ones")
+	}
+}
