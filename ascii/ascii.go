@@ -1,5 +1,8 @@
-// Package ascii knows the kinds of bytes that the other packages speak of.
+// Package ascii knows the kinds of bytes and the words that the other packages
+// speak of.
 package ascii
+
+import "strings"
 
 // IsSpace tells whether c is whitespace.
 func IsSpace(c byte) bool {
@@ -18,6 +21,21 @@ func IsLetter(c byte) bool {
 // IsDigit tells whether c is a decimal digit.
 func IsDigit(c byte) bool {
 	return '0' <= c && c <= '9'
+}
+
+// WordLength is the length of the word that text begins with: a small letter and
+// then small letters, digits and signs, as many as there are.
+func WordLength(text, signs string) int {
+	for at := range len(text) {
+		c := text[at]
+		if 'a' <= c && c <= 'z' {
+			continue
+		}
+		if at == 0 || !IsDigit(c) && strings.IndexByte(signs, c) < 0 {
+			return at
+		}
+	}
+	return len(text)
 }
 
 // LowerByte puts one byte in lower case.

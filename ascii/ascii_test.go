@@ -49,3 +49,18 @@ func TestLowerLeavesOtherBytes(t *testing.T) {
 		}
 	}
 }
+
+func TestWordLength(t *testing.T) {
+	for _, c := range []struct {
+		text, signs string
+		length      int
+	}{
+		{"", "-", 0}, {"a", "", 1}, {"z9", "", 2}, {"a>b", "", 1}, {"a-b c", "-", 3}, {"a-b", "", 1}, {"a-+.b", "+-.", 5}, {"a-+.b", "-.", 2},
+		{"1a", "", 0}, {"-a", "-", 0}, {"Aa", "", 0}, {"aA", "", 1}, {" a", "", 0}, {"h1h", "", 3}, {"\xffa", "", 0}, {"a\xff", "\xfe", 1},
+		{"a`", "", 1}, {"a{", "", 1}, {"`", "", 0}, {"{", "", 0}, {"a/", "", 1}, {"a:", "", 1}, {"a\u00e9", "", 1}, {"a\x00", "", 1},
+	} {
+		if got := ascii.WordLength(c.text, c.signs); got != c.length {
+			t.Errorf("WordLength(%q, %q) = %d, want %d", c.text, c.signs, got, c.length)
+		}
+	}
+}

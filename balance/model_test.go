@@ -271,19 +271,9 @@ func TestLongSequencesAgainstModel(t *testing.T) {
 // in between neither.
 func TestCutTexts(t *testing.T) {
 	random := rand.New(rand.NewSource(8))
-	lost := eventtest.Read("[]?</svg><svg>")
 	for range 20000 {
 		whole := randomEvents(random, strings.Fields("ul li table tr td p b a"), 1+random.Intn(30))
-		var cut []api.Event
-		for _, e := range whole {
-			if e.Kind != api.KindText {
-				cut = append(cut, e)
-				continue
-			}
-			at := random.Intn(len(e.Text) + 1)
-			cut = append(cut, api.Event{Kind: api.KindText, Text: e.Text[:at]}, lost[random.Intn(len(lost))])
-			cut = append(cut, api.Event{Kind: api.KindText, Text: e.Text[at:]})
-		}
+		cut := eventtest.CutTexts(random.Intn, whole)
 		depth := 1 + random.Intn(9)
 		want := balance.Balance(depth, whole)
 		if got := balance.Balance(depth, cut); !eventtest.Same(got, want) {

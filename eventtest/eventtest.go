@@ -82,3 +82,20 @@ func Same(one, other []api.Event) bool {
 		return x.Kind == y.Kind && x.Name == y.Name && x.Text == y.Text && slices.Equal(x.Attrs, y.Attrs)
 	})
 }
+
+// CutTexts cuts each text in two, with an event in between that Balance loses.
+// pick picks one of the numbers from 0 on that are less than the one it is given.
+func CutTexts(pick func(int) int, events []api.Event) []api.Event {
+	lost := Read("[]?</svg><svg>")
+	var pieces []api.Event
+	for _, e := range events {
+		if e.Kind != api.KindText {
+			pieces = append(pieces, e)
+			continue
+		}
+		at := pick(len(e.Text) + 1)
+		pieces = append(pieces, api.Event{Kind: api.KindText, Text: e.Text[:at]}, lost[pick(len(lost))])
+		pieces = append(pieces, api.Event{Kind: api.KindText, Text: e.Text[at:]})
+	}
+	return pieces
+}

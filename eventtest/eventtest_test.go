@@ -1,6 +1,7 @@
 package eventtest_test
 
 import (
+	"math/rand"
 	"slices"
 	"testing"
 
@@ -24,6 +25,22 @@ func TestShortForm(t *testing.T) {
 	}
 	if got := eventtest.Show(want); got != "<b>[x y]<a href=u title=>?</b>[]</>" {
 		t.Error(got)
+	}
+}
+
+func TestCutTexts(t *testing.T) {
+	random := rand.New(rand.NewSource(9))
+	events := eventtest.Read("<b k=v>[xyz]</b>?[x][]")
+	cuts := map[int]bool{}
+	for range 100 {
+		cut := eventtest.CutTexts(random.Intn, events)
+		if len(cut) != len(events)+2*3 || cut[1].Text+cut[3].Text != "xyz" || !eventtest.Same(cut[:1], events[:1]) || !eventtest.Same(cut[4:6], events[2:4]) {
+			t.Fatalf("%s is cut to %s", eventtest.Show(events), eventtest.Show(cut))
+		}
+		cuts[len(cut[1].Text)] = true
+	}
+	if len(cuts) != 4 {
+		t.Errorf("a text of three bytes is cut in %d ways", len(cuts))
 	}
 }
 

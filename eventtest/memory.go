@@ -7,13 +7,27 @@ import (
 	"scrub/api"
 )
 
+func eventAttrs(e *api.Event) *[]api.Attr { return &e.Attrs }
+
+func nodeAttrs(n *api.Node) *[]api.Attr { return &n.Attrs }
+
 // Roomy copies events into lists that are each the front of a longer one.
 func Roomy(events []api.Event) []api.Event {
-	roomy := RoomyList(events, api.Event{Kind: api.KindText, Text: "behind"})
-	for i, e := range roomy {
-		roomy[i].Attrs = RoomyList(e.Attrs, api.Attr{Name: "behind", Value: "behind"})
+	return roomy(events, api.Event{Kind: api.KindText, Text: "behind"}, eventAttrs)
+}
+
+// RoomyNodes does the same to nodes.
+func RoomyNodes(nodes []api.Node) []api.Node {
+	return roomy(nodes, api.Node{Text: "behind"}, nodeAttrs)
+}
+
+func roomy[T any](list []T, fill T, attrs func(*T) *[]api.Attr) []T {
+	longer := RoomyList(list, fill)
+	for i := range longer {
+		own := attrs(&longer[i])
+		*own = RoomyList(*own, api.Attr{Name: "behind", Value: "behind"})
 	}
-	return roomy
+	return longer
 }
 
 // RoomyList copies a list to the front of a longer one, with fill behind it.
@@ -24,44 +38,67 @@ func RoomyList[T any](list []T, fill T) []T {
 
 // Whole copies events, with what stands in the room behind each list's end.
 func Whole(events []api.Event) []api.Event {
-	whole := slices.Clone(events[:cap(events)])
-	for i, e := range whole {
-		whole[i].Attrs = slices.Clone(e.Attrs[:cap(e.Attrs)])
+	return whole(events, eventAttrs)
+}
+
+// WholeNodes does the same to nodes.
+func WholeNodes(nodes []api.Node) []api.Node {
+	return whole(nodes, nodeAttrs)
+}
+
+func whole[T any](list []T, attrs func(*T) *[]api.Attr) []T {
+	copied := slices.Clone(list[:cap(list)])
+	for i := range copied {
+		own := attrs(&copied[i])
+		*own = slices.Clone((*own)[:cap(*own)])
 	}
-	return whole
+	return copied
 }
 
 // Spoil writes over all lists of an answer, the rooms behind their ends too.
 func Spoil(events []api.Event) {
-	whole := events[:cap(events)]
-	for i, e := range whole {
-		attrs := e.Attrs[:cap(e.Attrs)]
-		for j := range attrs {
-			attrs[j] = api.Attr{Name: "spoiled", Value: "spoiled"}
+	spoil(events, api.Event{Kind: api.KindText, Text: "spoiled"}, eventAttrs)
+}
+
+// SpoilNodes does the same to nodes.
+func SpoilNodes(nodes []api.Node) {
+	spoil(nodes, api.Node{Text: "spoiled"}, nodeAttrs)
+}
+
+func spoil[T any](list []T, spoiled T, attrs func(*T) *[]api.Attr) {
+	longest := list[:cap(list)]
+	for i := range longest {
+		own := *attrs(&longest[i])
+		own = own[:cap(own)]
+		for j := range own {
+			own[j] = api.Attr{Name: "spoiled", Value: "spoiled"}
 		}
-		whole[i] = api.Event{Kind: api.KindText, Text: "spoiled"}
+		longest[i] = spoiled
 	}
 }
 
 // Share tells whether two lists of some answers share memory, the rooms behind
 // their ends included. It writes over them.
 func Share(answers ...[]api.Event) bool {
-	var lists [][]api.Attr
-	for _, events := range answers {
-		for _, e := range events {
-			lists = append(lists, e.Attrs[:cap(e.Attrs)])
-		}
-	}
-	return shareCells(lists, func(a *api.Attr) *string { return &a.Name }) ||
-		shareCells(wholeLists(answers), func(e *api.Event) *string { return &e.Name })
+	return share(answers, eventAttrs, func(e *api.Event) *string { return &e.Name })
 }
 
-func wholeLists(answers [][]api.Event) [][]api.Event {
-	var whole [][]api.Event
-	for _, events := range answers {
-		whole = append(whole, events[:cap(events)])
+// ShareNodes does the same to nodes.
+func ShareNodes(answers ...[]api.Node) bool {
+	return share(answers, nodeAttrs, func(n *api.Node) *string { return &n.Name })
+}
+
+func share[T any](answers [][]T, attrs func(*T) *[]api.Attr, mark func(*T) *string) bool {
+	var longest [][]T
+	var lists [][]api.Attr
+	for _, answer := range answers {
+		longest = append(longest, answer[:cap(answer)])
+		for i := range answer {
+			own := *attrs(&answer[i])
+			lists = append(lists, own[:cap(own)])
+		}
 	}
-	return whole
+	return shareCells(lists, func(a *api.Attr) *string { return &a.Name }) || shareCells(longest, mark)
 }
 
 // shareCells puts each list's own number into all its cells: where two lists

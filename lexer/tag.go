@@ -4,6 +4,7 @@ import (
 	"scrub/api"
 	"scrub/ascii"
 	"scrub/chars"
+	"scrub/vocabulary"
 )
 
 // tagEnd stands in the table for the byte that ends the tag. It is the scan of
@@ -84,15 +85,10 @@ func (r *reader) readTag(letter int) bool {
 	}
 	r.mode, r.eat = api.ModeData, false
 	if isStart {
-		r.mode, r.eat = modeInside(name), eatsNewline(name)
+		r.mode, r.eat = modeInside(name), vocabulary.EatsNewline(name)
 	}
 	r.at, r.scan = end, state
 	return true
-}
-
-// eatsNewline tells whether a newline right behind the start tag is lost.
-func eatsNewline(name string) bool {
-	return name == "pre" || name == "textarea"
 }
 
 // tagName is the name of a tag that is given from its first letter on.

@@ -2,7 +2,6 @@ package policy
 
 import (
 	"slices"
-	"strings"
 
 	"scrub/api"
 	"scrub/ascii"
@@ -78,21 +77,7 @@ func neverEnds(name string) bool {
 // isWord tells whether word is a small letter and then small letters, digits
 // and signs, and has a length that a word may have.
 func isWord(word, signs string) bool {
-	if word == "" || len(word) > api.MaxWord || !isSmall(word[0]) {
-		return false
-	}
-	for i := range len(word) {
-		c := word[i]
-		if !isSmall(c) && !ascii.IsDigit(c) && strings.IndexByte(signs, c) < 0 {
-			return false
-		}
-	}
-	return true
-}
-
-// isSmall tells whether c is a small letter.
-func isSmall(c byte) bool {
-	return 'a' <= c && c <= 'z'
+	return word != "" && len(word) <= api.MaxWord && ascii.WordLength(word, signs) == len(word)
 }
 
 // lacksParts tells whether a list or a table is allowed without what it is made

@@ -96,6 +96,12 @@ func (e Element) IsTable() bool {
 	return false
 }
 
+// EatsNewline tells whether a newline right behind the start tag of an element
+// is lost when it is read, so that whoever writes one there has to write two.
+func EatsNewline(name string) bool {
+	return name == "pre" || name == "textarea"
+}
+
 // IsAttribute tells whether there is an attribute of a name.
 func IsAttribute(name string) bool {
 	for _, one := range attributes {

@@ -37,6 +37,7 @@ cell | take | take | take | stop | up | up | up`
 	listOfLinks      = "cite, href, src"
 	listOfVoids      = "br, hr, img"
 	listOfTables     = "table, tbody, tfoot, thead, tr, td, th"
+	listOfEaters     = "pre, textarea"
 )
 
 var classes = map[string]vocabulary.Class{
@@ -52,7 +53,7 @@ var models = map[string]vocabulary.Model{
 
 var unknown = []string{
 	"", " ", "B", "Table", "b ", " b", "bb", "h", "h0", "h7", "tab", "tables", "a, b", "a b", "script", "style", "svg", "math", "template",
-	"title", "iframe", "noscript", "plaintext", "xmp", "form", "input", "caption", "col", "colgroup", "dl", "b\x00", "\xff",
+	"title", "iframe", "noscript", "plaintext", "xmp", "form", "input", "Pre", "listing", "caption", "col", "colgroup", "dl", "b\x00", "\xff",
 }
 
 func has(list, name string) bool {
@@ -73,6 +74,9 @@ func TestEveryElement(t *testing.T) {
 			if got.IsVoid() != has(listOfVoids, name) || got.IsTable() != has(listOfTables, name) {
 				t.Errorf("%q: IsVoid %v, IsTable %v", name, got.IsVoid(), got.IsTable())
 			}
+			if got := vocabulary.EatsNewline(name); got != has(listOfEaters, name) {
+				t.Errorf("%q: EatsNewline %v", name, got)
+			}
 			if upper, known := vocabulary.Find(strings.ToUpper(name)); known || upper != (vocabulary.Element{}) {
 				t.Errorf("%q is known in capitals: %v", name, upper)
 			}
@@ -86,7 +90,7 @@ func TestEveryElement(t *testing.T) {
 func TestUnknownNames(t *testing.T) {
 	for _, name := range unknown {
 		element, known := vocabulary.Find(name)
-		if known || element != (vocabulary.Element{}) || element.IsVoid() || element.IsTable() {
+		if known || element != (vocabulary.Element{}) || element.IsVoid() || element.IsTable() || vocabulary.EatsNewline(name) {
 			t.Errorf("Find(%q) = %v, %v", name, element, known)
 		}
 	}

@@ -1,5 +1,5 @@
-// Package written knows how a tag looks in canonical markup, for the packages
-// that write tags and for those that measure them.
+// Package written knows how tags and texts look in canonical markup, for the
+// packages that write them and for those that measure them.
 package written
 
 import (
@@ -13,18 +13,23 @@ func StartTag(name string, attrs []api.Attr) string {
 	var tag strings.Builder
 	tag.WriteString("<" + name)
 	for _, attr := range attrs {
-		tag.WriteString(" " + attr.Name + `="` + escapeValue(attr.Value) + `"`)
+		value := strings.ReplaceAll(Text(attr.Value), `"`, "&quot;")
+		tag.WriteString(" " + attr.Name + `="` + value + `"`)
 	}
 	tag.WriteString(">")
 	return tag.String()
 }
 
-// escapeValue writes an attribute's value.
-func escapeValue(value string) string {
+// EndTag writes an end tag.
+func EndTag(name string) string {
+	return "</" + name + ">"
+}
+
+// Text writes a text.
+func Text(text string) string {
 	// The & is first, since the other signs give one.
-	value = strings.ReplaceAll(value, "&", "&amp;")
-	value = strings.ReplaceAll(value, "<", "&lt;")
-	value = strings.ReplaceAll(value, ">", "&gt;")
-	value = strings.ReplaceAll(value, "\u00a0", "&nbsp;")
-	return strings.ReplaceAll(value, `"`, "&quot;")
+	text = strings.ReplaceAll(text, "&", "&amp;")
+	text = strings.ReplaceAll(text, "<", "&lt;")
+	text = strings.ReplaceAll(text, ">", "&gt;")
+	return strings.ReplaceAll(text, "\u00a0", "&nbsp;")
 }

@@ -1,6 +1,7 @@
 package written_test
 
 import (
+	"strings"
 	"testing"
 
 	"scrub/api"
@@ -26,7 +27,15 @@ func TestStartTag(t *testing.T) {
 	}
 }
 
-func TestValuesAreEscaped(t *testing.T) {
+func TestEndTag(t *testing.T) {
+	for name, want := range map[string]string{"": "</>", "b": "</b>", "br": "</br>", "A<&": "</A<&>"} {
+		if got := written.EndTag(name); got != want {
+			t.Errorf("EndTag(%q) = %s, want %s", name, got, want)
+		}
+	}
+}
+
+func TestTextsAndValuesAreEscaped(t *testing.T) {
 	for value, want := range map[string]string{
 		"":                           "",
 		"&":                          "&amp;",
@@ -50,6 +59,14 @@ func TestValuesAreEscaped(t *testing.T) {
 		}
 		if got := chars.Unref(want, true); got != value {
 			t.Errorf("%q is read back as %q", want, got)
+		}
+		// In a text the quote stands as it is.
+		want = strings.ReplaceAll(want, "&quot;", `"`)
+		if got := written.Text(value); got != want {
+			t.Errorf("the text %q is written as %s", value, got)
+		}
+		if got := chars.Unref(want, false); got != value {
+			t.Errorf("the text %q is read back as %q", want, got)
 		}
 	}
 }
