@@ -2,6 +2,7 @@ package eventtest_test
 
 import (
 	"math/rand"
+	"reflect"
 	"slices"
 	"testing"
 
@@ -97,5 +98,32 @@ func TestSharedMemoryIsSeen(t *testing.T) {
 	}
 	if eventtest.Share([]api.Event{{Attrs: attrs[:2:2]}, {Attrs: attrs[2:]}, {}}) {
 		t.Error("lists side by side pass for shared ones")
+	}
+}
+
+func TestSharedMemoryOfPoliciesIsSeen(t *testing.T) {
+	plain := api.Policy{Rules: []api.Rule{{Name: "a", Attrs: []string{"href"}}, {Name: "b"}}, Schemes: []string{"http"}, Drop: []string{"svg"}, Depth: 1}
+	var roomy api.Policy
+	for what, write := range map[string]func(){
+		"a rule":                func() { roomy.Rules[0].Name = "i" },
+		"behind the rules":      func() { _ = append(roomy.Rules, api.Rule{}) },
+		"an attribute":          func() { roomy.Rules[0].Attrs[0] = "src" },
+		"behind the attributes": func() { _ = append(roomy.Rules[0].Attrs, "src") },
+		"behind an empty list":  func() { _ = append(roomy.Rules[1].Attrs, "src") },
+		"behind the schemes":    func() { _ = append(roomy.Schemes, "x") },
+		"behind the drops":      func() { _ = append(roomy.Drop, "x") },
+	} {
+		roomy = eventtest.RoomyPolicy(plain)
+		before := eventtest.WholePolicy(roomy)
+		if !reflect.DeepEqual(eventtest.WholePolicy(roomy), before) {
+			t.Error("a policy is not the same as itself")
+		}
+		write()
+		if reflect.DeepEqual(eventtest.WholePolicy(roomy), before) {
+			t.Errorf("%s is written and nobody sees it", what)
+		}
+	}
+	if len(roomy.Rules) != 2 || len(roomy.Drop) != 1 || plain.Rules[0].Name != "a" || plain.Rules[0].Attrs[0] != "href" {
+		t.Errorf("of %v is made %v", plain, roomy)
 	}
 }

@@ -36,6 +36,11 @@ func RoomyList[T any](list []T, fill T) []T {
 	return whole[:len(list)]
 }
 
+// WholeList copies a list, with what stands in the room behind its end.
+func WholeList[T any](list []T) []T {
+	return slices.Clone(list[:cap(list)])
+}
+
 // Whole copies events, with what stands in the room behind each list's end.
 func Whole(events []api.Event) []api.Event {
 	return whole(events, eventAttrs)
@@ -47,10 +52,10 @@ func WholeNodes(nodes []api.Node) []api.Node {
 }
 
 func whole[T any](list []T, attrs func(*T) *[]api.Attr) []T {
-	copied := slices.Clone(list[:cap(list)])
+	copied := WholeList(list)
 	for i := range copied {
 		own := attrs(&copied[i])
-		*own = slices.Clone((*own)[:cap(*own)])
+		*own = WholeList(*own)
 	}
 	return copied
 }

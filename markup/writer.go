@@ -8,31 +8,14 @@ import (
 	"scrub/written"
 )
 
-// writer writes the events of one call.
+// writer collects what the events of one call are written as.
 type writer struct {
-	out strings.Builder
-	eat bool // a reader would lose a newline that comes next
+	form written.Writer
+	out  strings.Builder
 }
 
-func (w *writer) start(name string, attrs []api.Attr) {
-	w.out.WriteString(written.StartTag(name, attrs))
-	w.eat = vocabulary.EatsNewline(name)
-}
-
-func (w *writer) end(name string) {
-	w.out.WriteString(written.EndTag(name))
-	w.eat = false
-}
-
-func (w *writer) addText(text string) {
-	if text == "" {
-		return
-	}
-	if w.eat && text[0] == '\n' {
-		w.out.WriteByte('\n')
-	}
-	w.out.WriteString(written.Text(text))
-	w.eat = false
+func (w *writer) take(e api.Event) {
+	w.out.WriteString(w.form.Take(e))
 }
 
 // treeWriter writes the nodes of a shaped list. There a node's depth is the
@@ -45,11 +28,11 @@ type treeWriter struct {
 func (w *treeWriter) add(n api.Node) {
 	w.closeTo(n.Depth)
 	if n.Name == "" {
-		w.addText(n.Text)
+		w.take(api.Event{Kind: api.KindText, Text: n.Text})
 		return
 	}
-	w.start(n.Name, n.Attrs)
-	if !isVoid(n.Name) {
+	w.take(api.Event{Kind: api.KindStart, Name: n.Name, Attrs: n.Attrs})
+	if !vocabulary.IsVoid(n.Name) {
 		w.open = append(w.open, n.Name)
 	}
 }
@@ -57,7 +40,7 @@ func (w *treeWriter) add(n api.Node) {
 // closeTo closes elements, the innermost first, until count are open.
 func (w *treeWriter) closeTo(count int) {
 	for at := len(w.open) - 1; at >= count; at-- {
-		w.end(w.open[at])
+		w.take(api.Event{Kind: api.KindEnd, Name: w.open[at]})
 		w.open = w.open[:at]
 	}
 }

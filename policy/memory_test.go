@@ -2,7 +2,6 @@ package policy_test
 
 import (
 	"reflect"
-	"slices"
 	"testing"
 
 	"scrub/api"
@@ -10,37 +9,14 @@ import (
 	"scrub/policy"
 )
 
-// roomyPolicy is a valid policy whose lists are each the front of a longer one.
-func roomyPolicy() api.Policy {
-	p := base()
-	for i, rule := range p.Rules {
-		p.Rules[i].Attrs = eventtest.RoomyList(rule.Attrs, "behind")
-	}
-	p.Rules = eventtest.RoomyList(p.Rules, api.Rule{Name: "behind"})
-	p.Schemes = eventtest.RoomyList(p.Schemes, "behind")
-	p.Drop = eventtest.RoomyList(p.Drop, "behind")
-	return p
-}
-
-// wholePolicy copies a policy, with what stands in the room behind each list's end.
-func wholePolicy(p api.Policy) api.Policy {
-	p.Rules = slices.Clone(p.Rules[:cap(p.Rules)])
-	for i, rule := range p.Rules {
-		p.Rules[i].Attrs = slices.Clone(rule.Attrs[:cap(rule.Attrs)])
-	}
-	p.Schemes = slices.Clone(p.Schemes[:cap(p.Schemes)])
-	p.Drop = slices.Clone(p.Drop[:cap(p.Drop)])
-	return p
-}
-
 const kept = "[x]<a href=u title=v><b></b><a></a><img src=u><svg>[y]</svg>?[z]<i k=v><b>"
 
 func TestArgumentsStayAsTheyAre(t *testing.T) {
-	p, events := roomyPolicy(), eventtest.Roomy(eventtest.Read(kept))
-	wantPolicy, wantEvents := wholePolicy(p), eventtest.Whole(events)
+	p, events := eventtest.RoomyPolicy(base()), eventtest.Roomy(eventtest.Read(kept))
+	wantPolicy, wantEvents := eventtest.WholePolicy(p), eventtest.Whole(events)
 	check := func(call string) {
 		t.Helper()
-		if !reflect.DeepEqual(wholePolicy(p), wantPolicy) || !eventtest.Same(eventtest.Whole(events), wantEvents) {
+		if !reflect.DeepEqual(eventtest.WholePolicy(p), wantPolicy) || !eventtest.Same(eventtest.Whole(events), wantEvents) {
 			t.Fatalf("%s changes what it is handed", call)
 		}
 	}
@@ -61,7 +37,7 @@ func TestArgumentsStayAsTheyAre(t *testing.T) {
 }
 
 func TestListsOfAnswersShareNoMemory(t *testing.T) {
-	p, events := roomyPolicy(), eventtest.Roomy(eventtest.Read(kept))
+	p, events := eventtest.RoomyPolicy(base()), eventtest.Roomy(eventtest.Read(kept))
 	one, other := policy.Filter(p, events), policy.Filter(p, events)
 	if len(one) != 9 || !eventtest.Same(one, other) {
 		t.Fatalf("Filter gives %s and %s", eventtest.Show(one), eventtest.Show(other))
@@ -76,7 +52,7 @@ func TestListsOfAnswersShareNoMemory(t *testing.T) {
 
 // What stands behind a list's end is no part of it.
 func TestRoomBehindListsIsNotRead(t *testing.T) {
-	p := roomyPolicy()
+	p := eventtest.RoomyPolicy(base())
 	for _, event := range eventtest.Read("<b behind=x>[t]<behind>") {
 		for _, e := range policy.Filter(p, []api.Event{event}) {
 			if len(e.Attrs) > 0 || e.Name == "behind" {

@@ -18,10 +18,16 @@ func (s *Stream) PutText(text string) {
 	s.text.WriteString(text)
 }
 
-// Put puts an event that is no text.
-func (s *Stream) Put(e api.Event) {
-	s.endText()
-	s.events = append(s.events, e)
+// Put puts events, the texts among them as PutText does.
+func (s *Stream) Put(events ...api.Event) {
+	for _, e := range events {
+		if e.Kind == api.KindText {
+			s.PutText(e.Text)
+			continue
+		}
+		s.endText()
+		s.events = append(s.events, e)
+	}
 }
 
 // Events is all that was put. Nothing is to be put any more behind this.

@@ -18,16 +18,21 @@ func TestStream(t *testing.T) {
 		{"[x]<b>[y]</b>[z]", "[x]<b>[y]</b>[z]"},
 		{"<b></b><i k=v>[]</i>", "<b></b><i k=v></i>"},
 	} {
-		var s stream.Stream
-		for _, e := range eventtest.Read(c.in) {
+		events := eventtest.Read(c.in)
+		var one, other stream.Stream
+		one.Put(events...)
+		for _, e := range events {
 			if e.Kind == api.KindText {
-				s.PutText(e.Text)
+				other.PutText(e.Text)
 			} else {
-				s.Put(e)
+				other.Put(e)
 			}
+			other.Put()
 		}
-		if got := s.Events(); !eventtest.Same(got, eventtest.Read(c.out)) {
-			t.Errorf("%s is collected as %s", c.in, eventtest.Show(got))
+		for _, got := range [][]api.Event{one.Events(), other.Events()} {
+			if !eventtest.Same(got, eventtest.Read(c.out)) {
+				t.Errorf("%s is collected as %s", c.in, eventtest.Show(got))
+			}
 		}
 	}
 }

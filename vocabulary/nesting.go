@@ -40,6 +40,15 @@ func Nest(model Model, class Class) Place {
 	return nesting[model-ModelFlow][class-ClassFlow]
 }
 
+// ModelInside is what is taken inside the innermost of the open elements, which
+// go from the outermost to the innermost. Where none is open it is the root's.
+func ModelInside(open []Element) Model {
+	if len(open) == 0 {
+		return ModelFlow
+	}
+	return open[len(open)-1].Model
+}
+
 // Implied names the elements that have to be opened ahead of the thing,
 // the outermost first.
 func (p Place) Implied() []string {

@@ -87,6 +87,12 @@ func (e Element) IsVoid() bool {
 	return e.Model == ModelVoid
 }
 
+// IsVoid tells whether there is a void element of a name.
+func IsVoid(name string) bool {
+	element, _ := Find(name)
+	return element.IsVoid()
+}
+
 // IsTable tells whether e is a table element.
 func (e Element) IsTable() bool {
 	switch e.Model {

@@ -74,6 +74,9 @@ func TestEveryElement(t *testing.T) {
 			if got.IsVoid() != has(listOfVoids, name) || got.IsTable() != has(listOfTables, name) {
 				t.Errorf("%q: IsVoid %v, IsTable %v", name, got.IsVoid(), got.IsTable())
 			}
+			if vocabulary.IsVoid(name) != got.IsVoid() {
+				t.Errorf("%q: IsVoid of the name is %v", name, vocabulary.IsVoid(name))
+			}
 			if got := vocabulary.EatsNewline(name); got != has(listOfEaters, name) {
 				t.Errorf("%q: EatsNewline %v", name, got)
 			}
@@ -90,7 +93,7 @@ func TestEveryElement(t *testing.T) {
 func TestUnknownNames(t *testing.T) {
 	for _, name := range unknown {
 		element, known := vocabulary.Find(name)
-		if known || element != (vocabulary.Element{}) || element.IsVoid() || element.IsTable() || vocabulary.EatsNewline(name) {
+		if known || element != (vocabulary.Element{}) || element.IsVoid() || vocabulary.IsVoid(name) || element.IsTable() || vocabulary.EatsNewline(name) {
 			t.Errorf("Find(%q) = %v, %v", name, element, known)
 		}
 	}
@@ -135,6 +138,20 @@ func TestEveryPlace(t *testing.T) {
 			if got := tell(vocabulary.Nest(models[cells[0]], classes[head[i]])); got != cells[i] {
 				t.Errorf("%s inside of %s: %s, want %s", head[i], cells[0], got, cells[i])
 			}
+		}
+	}
+}
+
+func TestModelInside(t *testing.T) {
+	var open []vocabulary.Element
+	if got := vocabulary.ModelInside(open); got != vocabulary.ModelFlow {
+		t.Errorf("the root's model is %d", got)
+	}
+	for _, name := range []string{"p", "ul", "textarea", "table", "td"} {
+		element, _ := vocabulary.Find(name)
+		open = append(open, element)
+		if got := vocabulary.ModelInside(open); got != element.Model {
+			t.Errorf("the model inside of %q is %d", name, got)
 		}
 	}
 }

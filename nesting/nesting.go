@@ -1,23 +1,51 @@
-package balance
+// Package nesting makes a stream of events well nested, one event at a time.
+// Package balance stands on it.
+package nesting
 
 import (
 	"slices"
 
 	"scrub/api"
 	"scrub/ascii"
-	"scrub/stream"
 	"scrub/vocabulary"
 )
 
-// balancer goes through the events of one call.
-type balancer struct {
+// Balancer goes through the events of one stream.
+type Balancer struct {
 	depth int
 	open  []vocabulary.Element // from the outermost to the innermost
-	out   stream.Stream
+	out   []api.Event          // what the event that is being taken gives
+}
+
+// New makes a balancer that never has more than depth elements open.
+func New(depth int) *Balancer {
+	return &Balancer{depth: depth}
+}
+
+// Take takes the next event and answers what is to be put out for it. Nothing
+// waits for a later event, so that a text can come in pieces.
+func (b *Balancer) Take(e api.Event) []api.Event {
+	b.out = nil
+	switch e.Kind {
+	case api.KindStart:
+		b.start(e.Name, e.Attrs)
+	case api.KindEnd:
+		b.end(e.Name)
+	case api.KindText:
+		b.addText(e.Text)
+	}
+	return b.out
+}
+
+// End closes what is open behind the last event.
+func (b *Balancer) End() []api.Event {
+	b.out = nil
+	b.closeTo(0)
+	return b.out
 }
 
 // start takes a Start.
-func (b *balancer) start(name string, attrs []api.Attr) {
+func (b *Balancer) start(name string, attrs []api.Attr) {
 	element, known := vocabulary.Find(name)
 	if !known {
 		return
@@ -34,8 +62,8 @@ func (b *balancer) start(name string, attrs []api.Attr) {
 }
 
 // addText takes a Text.
-func (b *balancer) addText(text string) {
-	place := vocabulary.Nest(b.model(len(b.open)), vocabulary.ClassText)
+func (b *Balancer) addText(text string) {
+	place := vocabulary.Nest(vocabulary.ModelInside(b.open), vocabulary.ClassText)
 	if place != vocabulary.Take {
 		text = trimFront(text)
 		implied := place.Implied()
@@ -44,11 +72,13 @@ func (b *balancer) addText(text string) {
 		}
 		b.openImplied(implied)
 	}
-	b.out.PutText(text)
+	if text != "" {
+		b.put(api.Event{Kind: api.KindText, Text: text})
+	}
 }
 
 // end takes an End.
-func (b *balancer) end(name string) {
+func (b *Balancer) end(name string) {
 	element, known := vocabulary.Find(name)
 	if !known {
 		return
@@ -64,15 +94,9 @@ func (b *balancer) end(name string) {
 	}
 }
 
-// answer closes what is open and is all events.
-func (b *balancer) answer() []api.Event {
-	b.closeTo(0)
-	return b.out.Events()
-}
-
 // reach is how many of the open elements an element may stand in: an a and what
 // is open inside it can hold no other a, so no more than one is ever open.
-func (b *balancer) reach(element vocabulary.Element) int {
+func (b *Balancer) reach(element vocabulary.Element) int {
 	if at := slices.Index(b.open, element); element.Name == "a" && at >= 0 {
 		return at
 	}
@@ -81,33 +105,25 @@ func (b *balancer) reach(element vocabulary.Element) int {
 
 // find looks for a place for a thing of some class, first in the innermost of
 // count open elements. It answers how many of them stay open there.
-func (b *balancer) find(class vocabulary.Class, count int) (kept int, place vocabulary.Place) {
+func (b *Balancer) find(class vocabulary.Class, count int) (kept int, place vocabulary.Place) {
 	for kept = count; kept >= 0; kept-- {
-		if place = vocabulary.Nest(b.model(kept), class); place != vocabulary.Up {
+		if place = vocabulary.Nest(vocabulary.ModelInside(b.open[:kept]), class); place != vocabulary.Up {
 			return kept, place
 		}
 	}
 	return 0, vocabulary.Stop
 }
 
-// model is what is taken inside the innermost of count open elements.
-func (b *balancer) model(count int) vocabulary.Model {
-	if count == 0 {
-		return vocabulary.ModelFlow
-	}
-	return b.open[count-1].Model
-}
-
 // closeTo closes elements, the innermost first, until count are open.
-func (b *balancer) closeTo(count int) {
+func (b *Balancer) closeTo(count int) {
 	for at := len(b.open) - 1; at >= count; at-- {
-		b.out.Put(api.Event{Kind: api.KindEnd, Name: b.open[at].Name})
+		b.put(api.Event{Kind: api.KindEnd, Name: b.open[at].Name})
 		b.open = b.open[:at]
 	}
 }
 
 // openImplied opens elements inside each other.
-func (b *balancer) openImplied(names []string) {
+func (b *Balancer) openImplied(names []string) {
 	for _, name := range names {
 		element, _ := vocabulary.Find(name)
 		b.openElement(element, nil)
@@ -115,11 +131,15 @@ func (b *balancer) openImplied(names []string) {
 }
 
 // openElement puts a Start out. A void element is closed as soon as it is open.
-func (b *balancer) openElement(element vocabulary.Element, attrs []api.Attr) {
-	b.out.Put(api.Event{Kind: api.KindStart, Name: element.Name, Attrs: attrs})
+func (b *Balancer) openElement(element vocabulary.Element, attrs []api.Attr) {
+	b.put(api.Event{Kind: api.KindStart, Name: element.Name, Attrs: attrs})
 	if !element.IsVoid() {
 		b.open = append(b.open, element)
 	}
+}
+
+func (b *Balancer) put(e api.Event) {
+	b.out = append(b.out, e)
 }
 
 // isWall tells whether an open element, which is not the one looked for, hides

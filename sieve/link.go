@@ -1,10 +1,20 @@
-package policy
+package sieve
 
 import (
+	"slices"
 	"strings"
 
 	"scrub/ascii"
 )
+
+// CleanURL strips a link and tells whether it may stay.
+func CleanURL(schemes []string, value string) (string, bool) {
+	link := stripLink(value)
+	if scheme, found := schemeOf(link); found && !slices.Contains(schemes, scheme) {
+		return "", false
+	}
+	return link, true
+}
 
 // stripLink takes away what a browser does not see in a link.
 func stripLink(value string) string {

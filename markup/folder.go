@@ -7,39 +7,23 @@ import (
 	"scrub/vocabulary"
 )
 
-// isVoid tells whether there is a void element of a name.
-func isVoid(name string) bool {
-	element, _ := vocabulary.Find(name)
-	return element.IsVoid()
-}
-
-// isShaped tells whether a list of nodes is a tree in document order.
-func isShaped(nodes []api.Node) bool {
-	deepest := 0 // where the next node may stand
-	for _, n := range nodes {
-		isText := n.Name == ""
-		switch {
-		case n.Depth < 0 || deepest < n.Depth:
-			return false
-		case isText && len(n.Attrs) > 0:
-			return false
-		case !isText && n.Text != "":
-			return false
-		}
-		deepest = n.Depth
-		if !isText && !isVoid(n.Name) {
-			deepest++
-		}
-	}
-	return true
-}
-
 // folder makes the tree of one stream of events.
 type folder struct {
 	nodes     []api.Node
 	depth     int
 	text      strings.Builder // of a text that is to be the next node
 	textDepth int
+}
+
+func (f *folder) take(e api.Event) {
+	switch e.Kind {
+	case api.KindStart:
+		f.start(e.Name, e.Attrs)
+	case api.KindEnd:
+		f.depth = max(f.depth-1, 0)
+	case api.KindText:
+		f.addText(e.Text)
+	}
 }
 
 func (f *folder) start(name string, attrs []api.Attr) {
@@ -49,7 +33,7 @@ func (f *folder) start(name string, attrs []api.Attr) {
 		own := append([]api.Attr(nil), attrs...)
 		f.nodes = append(f.nodes, api.Node{Depth: f.depth, Name: name, Attrs: own})
 	}
-	if !isVoid(name) {
+	if !vocabulary.IsVoid(name) {
 		f.depth++
 	}
 }
